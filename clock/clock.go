@@ -19,3 +19,8 @@ func (c Clock) At(now int) (Clock, error) {
 	}
 	return Clock{last: now}, nil
 }
+
+// Now is the last time that it was set to.
+func (c Clock) Now() int {
+	return c.last
+}

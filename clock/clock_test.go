@@ -67,3 +67,18 @@ func TestTheOldOneStays(t *testing.T) {
 	refused(t, late, 899, api.ErrState)
 	at(t, late, 900)
 }
+
+// TestNow: the time that it was set to last, and 0 at first; what it refuses does not set it.
+func TestNow(t *testing.T) {
+	c := clock.Clock{}
+	for _, want := range []int{0, 0, 1, 7, 7, 65536, maxTime - 1, maxTime} {
+		c = at(t, c, want)
+		refused(t, c, want-1-maxTime, api.ErrRange)
+		if now := c.Now(); now != want {
+			t.Errorf("Now = %d, want %d", now, want)
+		}
+	}
+	if now := (clock.Clock{}).Now(); now != 0 {
+		t.Errorf("Now, at first = %d", now)
+	}
+}
